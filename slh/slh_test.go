@@ -107,8 +107,9 @@ func TestSizesHold(t *testing.T) {
 	})
 }
 
-// known are the root and the signature's SHA-256 that another program of this standard, with these numbers, made
-// of seedsOf, rndOf, "context" and "message".
+// known are the root and the signature's SHA-256 of seedsOf, rndOf, "context" and "message". They come from a second
+// program, in Python, that was written for this check from the standard's algorithms: they are no published vectors,
+// as none have these numbers.
 var known = map[int][2]string{
 	1: {"aa748226ec0c7b3262087aa9e8d02435", "f7ab513e30d0cbfa177ec80c2e62c56d27063e212c6810a630e042fbf6ec5388"},
 	2: {"c0090ba266bbd6068385c293ec89f9ee", "d278610f0ed29755cfe87edca13fd4f108080e1c564ad6935c8f2b5881cb1bcf"},
@@ -116,7 +117,7 @@ var known = map[int][2]string{
 	4: {"453ffd4f6fa076fb033b2ea852553e52ac20b1ba7d9b9d876a645e3caee372af", "063ac0743a423647372dba79bbf8e359f8fc9ac79a6f6f2ec83f409c6427c25d"},
 }
 
-// P6.1, P6.2: what another program made.
+// P6.1, P6.2: what the second program made.
 func TestKnown(t *testing.T) {
 	inAll(t, func(t *testing.T, set int) {
 		pk, sk := keysOf(t, set)
